@@ -3,6 +3,7 @@ package backup_test
 import (
 	"cmp"
 	"slices"
+	"sync"
 	"testing"
 	"unsafe"
 
@@ -183,4 +184,23 @@ func TestStoresApart(t *testing.T) {
 	n = answers(t, "apart", other, n, call{kind: "Drop", name: "b"})
 	tells(t, "P20.7: one", s, m)
 	tells(t, "P20.7: other", other, n)
+}
+
+// TestLooksAtOnce: what changes nothing, asked by many at once, is answered as if
+// by one; with the race detector it also shows that nothing is written by it.
+func TestLooksAtOnce(t *testing.T) {
+	x := seed(54)
+	_, s := laid(t, 600, 300, model{"a": x.from(1, 12, 40), "b": x.from(1, 5, 40), "c": of(1), "d": of(5, v("k", 1), v("k", 3))})
+	m := valuesOf(t, "at once", s)
+	want := lists(s, m)
+	var all sync.WaitGroup
+	for range 8 {
+		all.Go(func() {
+			if got := lists(s, m); !slices.EqualFunc(got, want, told.is) {
+				t.Errorf("R4: asked by many at once the store of %s answers otherwise", m)
+			}
+		})
+	}
+	all.Wait()
+	tells(t, "R4: asked by many at once", s, m)
 }

@@ -7,6 +7,7 @@ import (
 	"slices"
 	"strconv"
 	"strings"
+	"sync"
 	"testing"
 	"unsafe"
 
@@ -1056,4 +1057,27 @@ func TestNewMemory(t *testing.T) {
 	if len(all) != 12 {
 		t.Errorf("P7.1: %d answers", len(all))
 	}
+}
+
+// TestReadAtOnce: blocks that many read at once are read as by one; with the race
+// detector it also shows that reading writes nothing.
+func TestReadAtOnce(t *testing.T) {
+	d := made(t, 40)
+	l := opens(t, "at once", d, 20)
+	commits(t, "at once", d, l, writes("a0", "b1", "c7", "d19"))
+	var all sync.WaitGroup
+	for range 8 {
+		all.Go(func() {
+			for n := range 20 {
+				want, wantErr := d.Read(20 + n)
+				if got, err := l.Read(n); got != want || err != wantErr || l.Blocks() != 20 {
+					t.Errorf("P7.1: read by many at once: block %d: %.4q, %d, want %.4q", n, got, err, want)
+				}
+			}
+			if _, err := l.Read(20); err != api.ErrArg {
+				t.Errorf("P7.1: read by many at once: no block: %d", err)
+			}
+		})
+	}
+	all.Wait()
 }
